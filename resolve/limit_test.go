@@ -135,15 +135,16 @@ func fits(t *testing.T, what string, some int, texts ...string) {
 
 // The types of a function, beside those that a text says.
 func TestPartsOfAFunction(t *testing.T) {
-	const defs = "resource r; type one = u8; type two = one; type s = r; type w = s; record p { x: u8, y: two } variant v { x, y(u8), z } enum e { x, y } flags h { x, y } type res = result<u8>; type none = result; "
+	const defs = "resource r; type one = u8; type two = one; type s = r; type w = s; record p { x: u8, y: two } variant v { x, y(u8), z } enum e { x, y } flags h { x, y } type res = result<u8>; type none = result; type ten = tuple<u8, u8, u8, u8, u8, u8, u8, u8, u8>; type ten-too = ten; type ten-three = ten-too; type in-list = list<ten-three>; "
 	for _, x := range []struct {
 		more string
 		n    int
 	}{
 		{"", 0}, {"y: u8", 1}, {"y: u8, z: s8", 2}, {"y: string", 1}, {"y: list<u8>", 2}, {"y: option<u8>", 2}, {"y: result", 1}, {"y: result<u8>", 2}, {"y: result<_, u8>", 2}, {"y: result<u8, u8>", 3}, {"y: tuple<u8, list<u8>>", 4},
-		{"y: one", 2}, {"y: two", 3}, {"y: list<two>", 4}, {"y: r", 1}, {"y: s", 2}, {"y: w", 3}, {"y: own<r>", 1}, {"y: borrow<r>", 1}, {"y: own<s>", 2}, {"y: borrow<w>", 3}, {"y: list<own<r>>, z: borrow<r>", 3},
-		{"y: p", 6}, {"y: v", 3}, {"y: e", 2}, {"y: h", 2}, {"y: res", 3}, {"y: none", 2}, {"y: result<p, v>", 10},
-		{"y: far", 3}, {"y: far-one", 2}, {"y: far-r", 1}, {"y: own<far-r>", 1}, {"y: option<far-s>", 3},
+		{"y: one", 2}, {"y: two", 2}, {"y: list<two>", 3}, {"y: r", 1}, {"y: s", 1}, {"y: w", 1}, {"y: own<r>", 1}, {"y: borrow<r>", 1}, {"y: own<s>", 1}, {"y: borrow<w>", 1}, {"y: list<own<r>>, z: borrow<r>", 3},
+		{"y: ten", 11}, {"y: ten-too", 11}, {"y: ten-three, z: ten", 22}, {"y: in-list", 13},
+		{"y: p", 5}, {"y: v", 3}, {"y: e", 2}, {"y: h", 2}, {"y: res", 3}, {"y: none", 2}, {"y: result<p, v>", 9},
+		{"y: far", 2}, {"y: far-one", 2}, {"y: far-r", 1}, {"y: own<far-r>", 1}, {"y: option<far-s>", 2},
 	} {
 		all := func(n int, x string) []string {
 			return one("interface base { " + defs + "} interface far { use base.{two, one, r, s}; } interface i { use far.{two as far, one as far-one, r as far-r, s as far-s}; " + defs + strings.ReplaceAll(x, "@", parts(n)) + " } world w { import i; export i; }")
@@ -207,15 +208,14 @@ func TestFirstAtTheLastPart(t *testing.T) {
 	}
 	for _, x := range []struct {
 		more string
-		last int // how many types the fault needs
 		e    api.Errno
 	}{
-		{"nothing", 1, api.ErrName}, {"x", 1, api.ErrName}, {"own<nothing>", 1, api.ErrName}, {"own<y>", 1, api.ErrName},
-		// t0, then the names in i up to t63, for which the 65th one stands; from t1 that is the last one that may be.
-		{"t0", 64, api.ErrState}, {"own<t0>", 64, api.ErrState}, {"t1", 64, api.ErrState}, {"t2", 63, api.ErrName},
+		{"nothing", api.ErrName}, {"x", api.ErrName}, {"own<nothing>", api.ErrName}, {"own<y>", api.ErrName},
+		// t0, then the names in i up to t63, for which the 65th one stands; from t1 that is the last one that may be. On the way to them there is no type.
+		{"t0", api.ErrState}, {"own<t0>", api.ErrState}, {"t1", api.ErrState}, {"t2", api.ErrName},
 	} {
-		fails(t, x.e, text(500-x.last, x.more)...)
-		fails(t, api.ErrFull, text(501-x.last, x.more)...)
+		fails(t, x.e, text(499, x.more)...)
+		fails(t, api.ErrFull, text(500, x.more)...)
 	}
 }
 

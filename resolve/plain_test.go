@@ -237,7 +237,6 @@ func (p *plain) follow(s spot, name string, c *cost) (spot, api.Def) {
 			if d.Kind != api.DefType || d.T.Kind != api.TNamed {
 				return s, d
 			}
-			c.one()
 			name = d.T.Names[0]
 			continue
 		}

@@ -53,10 +53,14 @@ func (r *resolver) named(s scope, name string) (api.Type, bool) {
 	if at < 0 {
 		return r.used(s, name)
 	}
-	if s.defs[at].Kind == api.DefResource {
+	d := s.defs[at]
+	if d.Kind == api.DefResource {
 		return api.Type{Kind: api.TOwn, R: r.number(s, name)}, true
 	}
-	return r.typ(s, s.defs[at].T)
+	if d.T.Kind == api.TNamed { // a name on the way to what it stands for: no type of the function's
+		return r.named(s, d.T.Names[0])
+	}
+	return r.typ(s, d.T)
 }
 
 // used tells likewise what a name stands for that is not defined in a scope.
